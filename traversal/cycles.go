@@ -3,6 +3,7 @@ package traversal
 import (
 	"slices"
 
+	"palmette/bfs"
 	"palmette/bitset"
 	"palmette/graph"
 )
@@ -36,7 +37,7 @@ search:
 func firstShortest(g *graph.Graph, evenToo bool) (int, int) {
 	best, start := 0, 0
 	for v := range g.VertexSet().All() {
-		n := shortestFrom(g, layers(g, v, above(g, v)), evenToo)
+		n := shortestFrom(g, bfs.Layers(g, v, above(g, v)), evenToo)
 		if n > 0 && (best == 0 || n < best) {
 			best, start = n, v
 		}
@@ -77,21 +78,21 @@ func smallestWalk(g *graph.Graph, start, n int) []int {
 		}
 		back = append(back, next)
 	}
-	return descend(g, start, back[1:])
+	return bfs.Descend(g, start, back[1:])
 }
 
 // smallestEvenCycle returns the smallest cycle of the least length n, which is even, through its smallest vertex.
 // Shortest paths of fewer than n/2 steps are unique, since two of them would form a shorter cycle.
 func smallestEvenCycle(g *graph.Graph, start, n int) []int {
-	l := layers(g, start, above(g, start))[:n/2+1]
+	l := bfs.Layers(g, start, above(g, start))[:n/2+1]
 	var best []int
 	for far := range l[n/2].All() {
 		near := g.Neighbors(far).Intersect(l[n/2-1])
 		for p := range near.All() {
 			for q := range near.Without(p).All() {
-				cycle := descend(g, p, l[:n/2-1])
+				cycle := bfs.Descend(g, p, l[:n/2-1])
 				slices.Reverse(cycle)
-				cycle = append(append(cycle, far), descend(g, q, l[1:n/2-1])...)
+				cycle = append(append(cycle, far), bfs.Descend(g, q, l[1:n/2-1])...)
 				if best == nil || slices.Compare(cycle, best) < 0 {
 					best = cycle
 				}
