@@ -77,10 +77,11 @@ func Find(start func(emit func(Transition)), follow func(state int, emit func(Tr
 	start(emit)
 	rank := 0
 	var before candidate
+growth:
 	for q.Len() > 0 {
 		c := heap.Pop(&q).(candidate)
 		if _, done := table[c.last.To]; done {
-			continue
+			continue growth
 		}
 		if compare(before, c) != 0 {
 			rank++
