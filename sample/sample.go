@@ -140,3 +140,43 @@ func Atom(pick Pick, env []formula.Var) formula.Node {
 	}
 	return formula.Node{Op: formula.True + pick(2)}
 }
+
+// Tree returns the bags of a tree decomposition with small bags, and a graph that fits.
+func Tree(pick Pick, bags int) ([]int, [][]int, *graph.Graph) {
+	parents := []int{-1}
+	sets := [][]int{{0}}
+	next := 1
+	for i := 1; i < bags; i++ {
+		p := pick(i)
+		if pick(2) == 0 {
+			p = i - 1
+		}
+		var set []int
+		for _, v := range sets[p] {
+			if pick(3) > 0 && len(set) < 3 {
+				set = append(set, v)
+			}
+		}
+		for len(set) < 2+pick(2) {
+			set = append(set, next)
+			next++
+		}
+		parents, sets = append(parents, p), append(sets, set)
+	}
+	g := graph.New()
+	for id := range next {
+		if pick(8) > 0 {
+			g.Apply(graph.Edit{Op: graph.AddVertex, U: id, Label: uint8(pick(4)), Weight: pick(7) - 3})
+		}
+	}
+	for _, set := range sets {
+		for _, u := range set {
+			for _, v := range set {
+				if pick(3) == 0 {
+					g.Apply(graph.Edit{Op: graph.AddEdge, U: u, V: v, Label: uint8(pick(4)), Weight: pick(7) - 3})
+				}
+			}
+		}
+	}
+	return parents, sets, g
+}
