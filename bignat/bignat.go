@@ -28,6 +28,9 @@ func trimmed(d []uint32) Nat {
 	for n > 0 && d[n-1] == 0 {
 		n--
 	}
+	if n == 0 {
+		return Nat{}
+	}
 	return Nat{d[:n:n]}
 }
 
