@@ -109,7 +109,7 @@ func (v evaluation) compute(p *position, position int, values [MaxTracks]uint8) 
 		return v.s.connected(position, l), true
 	case kernel.Exists:
 		track := len(p.sorts) - 1
-		c := newMembers()
+		c := newMembers(4)
 		for choice := range v.x.choices(p.Sort) {
 			values[track] = choice
 			id, ok := v.node(p.operands[0], values)

@@ -3,7 +3,6 @@ package msotype
 import (
 	"cmp"
 	"slices"
-	"strconv"
 )
 
 // Nodes are interned: equal nodes have equal numbers. The numbers of the two decided nodes are fixed.
@@ -37,7 +36,10 @@ type member struct {
 // set contains the members of an existential quantifier in a fixed order.
 type set []member
 
-func appendNumber(b []byte, n int) []byte { return append(strconv.AppendInt(b, int64(n), 36), ' ') }
+// appendNumber appends a number of at most 32 bits.
+func appendNumber(b []byte, n int) []byte {
+	return append(b, byte(n), byte(n>>8), byte(n>>16), byte(n>>24))
+}
 
 func (v value) appendKey(b []byte) []byte { return appendNumber(append(b, 'v'), int(v)) }
 
@@ -50,7 +52,7 @@ func (l list) appendKey(b []byte) []byte {
 }
 
 func (s set) appendKey(b []byte) []byte {
-	b = append(b, 's')
+	b = slices.Grow(append(b, 's'), 8*len(s))
 	for _, m := range s {
 		b = appendNumber(appendNumber(b, int(m.mask)), m.node)
 	}
@@ -65,7 +67,7 @@ type joined struct {
 
 type movedNode struct{ position, node int32 }
 
-// nodes are the known nodes, with remembered results of operations on them. The number unknown marks an exceeded limit.
+// nodes are the known nodes, with remembered results of operations on them.
 type nodes struct {
 	list  []node
 	ids   map[string]int
@@ -74,6 +76,7 @@ type nodes struct {
 	memos int
 }
 
+// exceeded is the remembered result of a join that exceeds a limit.
 const exceeded = -1
 
 func newNodes() *nodes {
@@ -115,7 +118,8 @@ type members struct {
 	any   bool // some member is universal
 }
 
-func newMembers() *members { return &members{found: map[member]bool{}} }
+// newMembers expects about a number of members.
+func newMembers(about int) *members { return &members{found: make(map[member]bool, about)} }
 
 // add adds a member and reports whether the limit still holds.
 func (c *members) add(m member) bool {

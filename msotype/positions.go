@@ -151,7 +151,7 @@ func (s *States) joinSets(operand int, x, y set, common uint16) (int, bool) {
 	for _, m := range y {
 		agreeing[m.mask&common] = append(agreeing[m.mask&common], m)
 	}
-	c := newMembers()
+	c := newMembers(len(x))
 	for _, m := range x {
 		for _, o := range agreeing[m.mask&common] {
 			r, ok := s.join(operand, m.node, o.node, common)
@@ -187,7 +187,7 @@ func (s *States) move(position, a int, known map[movedNode]int32, move func(uint
 		}
 		r = s.connected(position, l)
 	case set:
-		c := newMembers()
+		c := newMembers(len(x))
 		for _, m := range x {
 			n, ok := s.move(p.operands[0], m.node, known, move)
 			if !ok || !c.add(member{move(m.mask), n}) {
