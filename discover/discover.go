@@ -44,3 +44,21 @@ func eachList(rank, before, limit int, first bool, take func(operands ...int) bo
 	}
 	return true
 }
+
+// Lists calls take for all lists of numbers below n of a length up to 2, in lexicographic order.
+func Lists(n, length int, take func(l ...int)) {
+	switch length {
+	case 0:
+		take()
+	case 1:
+		for a := range n {
+			take(a)
+		}
+	case 2:
+		for a := range n {
+			for b := range n {
+				take(a, b)
+			}
+		}
+	}
+}
