@@ -1,6 +1,8 @@
 package optimize
 
 import (
+	"iter"
+
 	"palmette/bitset"
 	"palmette/graph"
 	"palmette/semiring"
@@ -21,20 +23,29 @@ type chosen struct {
 	left, right    *chosen
 }
 
-// add adds all elements to the sets of their tracks.
-func (c *chosen) add(sets []bitset.Set) {
-	for ; c != nil; c = c.right {
-		if c.left == nil && c.right == nil {
-			sets[c.track] = sets[c.track].With(c.element)
-			return
+// elements iterates over the chosen elements, each with its track.
+func (c *chosen) elements() iter.Seq2[int, int] {
+	return func(yield func(track, element int) bool) {
+		for parts := []*chosen{c}; len(parts) > 0; {
+			x := parts[len(parts)-1]
+			parts = parts[:len(parts)-1]
+			switch {
+			case x == nil:
+			case x.left != nil || x.right != nil:
+				parts = append(parts, x.right, x.left)
+			case !yield(x.track, x.element):
+				return
+			}
 		}
-		c.left.add(sets)
 	}
 }
 
+// sets returns the chosen elements of each track.
 func (c choice) sets() []bitset.Set {
 	sets := make([]bitset.Set, c.tracks)
-	c.chosen.add(sets)
+	for track, element := range c.chosen.elements() {
+		sets[track] = sets[track].With(element)
+	}
 	return sets
 }
 
