@@ -119,7 +119,7 @@ func (v evaluation) compute(p *position, position int, values [MaxTracks]uint8) 
 		}
 		return v.s.nodes.set(c), true
 	}
-	return v.s.atom(position, v.atomValue(p, values)), true
+	return p.values.nodes[v.atomValue(p, values)], true
 }
 
 // atomValue returns the monoid value of an atom.

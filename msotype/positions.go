@@ -16,7 +16,11 @@ type position struct {
 	sorts    []int  // of the tracks in scope; for a quantifier including the bound one
 	uses     uint16 // the tracks that occur in atoms below
 	monoid   monoid.Monoid
+	values   *values
 }
+
+// values holds the nodes of the values of a monoid, and of the sums of any two values, one row for each first value.
+type values struct{ nodes, sums []int }
 
 func isAtom(op int) bool { return op < kernel.Not }
 
@@ -68,16 +72,45 @@ func negated(id int) int {
 	return id
 }
 
-// atom returns the node of a monoid value.
-func (s *States) atom(position, v int) int {
-	m := s.positions[position].monoid
-	switch {
-	case m.Dead(v):
-		return dead
-	case m.Universal(v):
-		return universal
+// tabulate gives each atom the nodes of its values, which atoms with equal monoids share.
+func (s *States) tabulate() {
+	known := map[monoid.Monoid]*values{}
+	for i := range s.positions {
+		p := &s.positions[i]
+		if !isAtom(p.Op) {
+			continue
+		}
+		if known[p.monoid] == nil {
+			known[p.monoid] = s.valuesOf(p.monoid)
+		}
+		p.values = known[p.monoid]
 	}
-	return s.nodes.intern(value(v))
+}
+
+func (s *States) valuesOf(m monoid.Monoid) *values {
+	var t values
+	size := m.Size()
+	for v := range size {
+		node := dead
+		switch {
+		case m.Universal(v):
+			node = universal
+		case !m.Dead(v):
+			node = s.nodes.intern(value(v))
+		}
+		t.nodes = append(t.nodes, node)
+	}
+	for pair := range size * size {
+		t.sums = append(t.sums, t.nodes[m.Add(pair/size, pair%size)])
+	}
+	return &t
+}
+
+// joinValues returns the node of the sum of two values of an atom.
+func (s *States) joinValues(p *position, a, b int) int {
+	x, _ := s.nodes.list[a].(value)
+	y, _ := s.nodes.list[b].(value)
+	return p.values.sums[int(x)*len(p.values.nodes)+int(y)]
 }
 
 // connected returns the node of And or Or, given those of all operands.
@@ -108,11 +141,15 @@ func (s *States) join(position, a, b int, common uint16) (int, bool) {
 	if a == universal || b == universal {
 		return universal, true
 	}
+	// The values of atoms have tables; only the joins of other nodes are worth remembering.
+	if isAtom(p.Op) {
+		return s.joinValues(p, a, b), true
+	}
 	key := joined{int32(position), int32(min(a, b)), int32(max(a, b)), common}
 	if r, known := s.nodes.joins[key]; known {
 		return int(max(r, 0)), r != exceeded
 	}
-	r, ok := s.joinOther(p, position, a, b, common)
+	r, ok := s.joinParts(p, position, a, b, common)
 	s.nodes.remembering()
 	s.nodes.joins[key] = int32(r)
 	if !ok {
@@ -121,13 +158,10 @@ func (s *States) join(position, a, b int, common uint16) (int, bool) {
 	return r, ok
 }
 
-// joinOther joins nodes that are neither dead nor universal.
-func (s *States) joinOther(p *position, position, a, b int, common uint16) (int, bool) {
+// joinParts joins lists or sets.
+func (s *States) joinParts(p *position, position, a, b int, common uint16) (int, bool) {
 	other := s.nodes.list[b]
 	switch x := s.nodes.list[a].(type) {
-	case value:
-		y, _ := other.(value)
-		return s.atom(position, p.monoid.Add(int(x), int(y))), true
 	case list:
 		y, _ := other.(list)
 		l := make(list, len(x))
